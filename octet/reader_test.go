@@ -319,3 +319,14 @@ func TestNilReader(t *testing.T) {
 		t.Errorf("Err = %d, End = %d", r.Err(), r.End())
 	}
 }
+
+// P1: nothing panics, a reader that Read did not make neither.
+func TestZeroReader(t *testing.T) {
+	silent(t, "zero", &octet.Reader{})
+	r := &octet.Reader{}
+	r.Fail(api.ErrForm)
+	silent(t, "zero, after Fail", r)
+	if e := r.End(); e != api.ErrForm {
+		t.Errorf("zero, after Fail: End = %d", e)
+	}
+}
